@@ -1065,25 +1065,42 @@ func TestMemory(t *testing.T) {
 	behind = append(behind, slices.Repeat(list{entry("behind", 7, 7)}, spare)...)
 	was := slices.Clone(behind)
 	l := behind[:len(behind)-spare]
-	for name, call := range map[string]func() (list, api.Errno){
-		"Set of one that is there": func() (list, api.Errno) { return quota.Set(l, "a", all(40)) },
-		"Set of a new one":         func() (list, api.Errno) { return quota.Set(l, "aa", all(40)) },
-		"Set of a new last one":    func() (list, api.Errno) { return quota.Set(l, "z", all(40)) },
-		"Charge":                   func() (list, api.Errno) { return quota.Charge(l, "a/b", all(1)) },
-		"Refund":                   func() (list, api.Errno) { return quota.Refund(l, "a/b/c", all(1)) },
+	for _, c := range []struct {
+		step
+		want api.Errno
+	}{
+		{step{"Set", "a", all(40)}, api.OK},
+		{step{"Set", "aa", all(40)}, api.OK},
+		{step{"Set", "z", all(40)}, api.OK},
+		{step{"Set", "A", all(40)}, api.ErrName},
+		{step{"Set", "d/e", all(40)}, api.ErrNone},
+		{step{"Set", "a", all(1)}, api.ErrQuota},
+		{step{"Charge", "a/b", all(1)}, api.OK},
+		{step{"Charge", "A", all(1)}, api.ErrName},
+		{step{"Charge", "d", all(1)}, api.ErrNone},
+		{step{"Charge", "a/b/c", all(6)}, api.ErrQuota},
+		{step{"Charge", "a/b/c", most}, api.ErrOver},
+		{step{"Refund", "a/b/c", all(1)}, api.OK},
+		{step{"Refund", "A", all(1)}, api.ErrName},
+		{step{"Refund", "d", all(1)}, api.ErrNone},
+		{step{"Refund", "a/b/c", all(6)}, api.ErrState},
 	} {
-		got, also := call()
-		if also != api.OK || !slices.Equal(behind, was) {
-			t.Fatalf("%s: %d, and the list is %v", name, also, behind)
+		got, also := play(l, c.step)
+		if also != c.want || !slices.Equal(behind, was) {
+			t.Fatalf("%v: %d, and the list is %v", c, also, behind)
 		}
 		for i := range got {
 			got[i] = quota.Entry{}
 		}
 		clear(append(got, entry("more", 1, 1)))
 		if !slices.Equal(behind, was) {
-			t.Fatalf("what %s told is a part of the list", name)
+			t.Fatalf("what %v told is a part of the list", c)
 		}
 	}
+	full := slices.Repeat(l, api.MaxPaths)
+	got, also := quota.Set(full, "aa", all(1))
+	clear(got)
+	wantTree(t, "Set", full, also, slices.Repeat(l, api.MaxPaths), api.ErrFull)
 	quota.Could(l, "a/b", all(1))
 	quota.Right(l)
 	quota.Put(l)
